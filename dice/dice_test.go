@@ -151,7 +151,7 @@ func TestSeedOfNumbersHalfAWholeApart(t *testing.T) {
 	}
 }
 
-// Nexts that are worked out by hand: 0, 1, the greatest state, and states whose product goes round never, once, and more often.
+// Nexts that were worked out apart, by a program with integers without bound: 0, 1, the greatest state, and states whose product goes round never, once, and more often.
 func TestNextOfFew(t *testing.T) {
 	for _, c := range []struct {
 		s, behind uint64
@@ -187,7 +187,7 @@ func TestNextOfEdges(t *testing.T) {
 	}
 }
 
-// Runs of states, each behind the one before, that are worked out by hand.
+// Runs of states, each behind the one before, that were worked out apart in the same way.
 func TestNextOfRuns(t *testing.T) {
 	for _, c := range []struct {
 		n    int
@@ -273,7 +273,7 @@ func TestNextNumberIsOfStateBehind(t *testing.T) {
 	}
 }
 
-// Runs of rolls that are worked out by hand.
+// Runs of rolls that were worked out apart in the same way.
 func TestRollOfRuns(t *testing.T) {
 	for _, c := range []struct {
 		seed, n int
