@@ -245,11 +245,14 @@ func glide(x, v int) (int, int) {
 }
 
 // tally counts what a sweep has met.
-type tally struct{ steps, faults, fired, hits, twice, atOnce, left, reused, full, late int }
+type tally struct{ steps, faults, fired, hits, twice, atOnce, left, reused, full, late, notReal int }
 
 func (n *tally) player(c api.Config, s *api.State, b api.Body, r []api.Cell, free int) (api.Body, []api.Body) {
 	var in api.Input
-	if b.Owner < len(r) && r[b.Owner].Real {
+	if b.Owner < len(r) {
+		if !r[b.Owner].Real && r[b.Owner].In != in {
+			n.notReal++
+		}
 		in = r[b.Owner].In
 		in = api.Input{Buttons: bound(in.Buttons, 0, 255), X: bound(in.X, -64, 64), Y: bound(in.Y, -64, 64)}
 	}
@@ -447,6 +450,7 @@ func TestSweep(t *testing.T) {
 	for name, met := range map[string]int{
 		"faults": n.faults, "fired": n.fired, "hits": n.hits, "hit twice in a frame": n.twice, "hit at once": n.atOnce,
 		"left": n.left, "set where one left": n.reused, "full": n.full, "beyond the last frame": n.late,
+		"inputs in cells that are not Real": n.notReal,
 	} {
 		if met < 50 {
 			t.Errorf("the sweep of %d steps met %s %d times alone", n.steps, name, met)

@@ -102,6 +102,26 @@ func row(l ...api.Input) []api.Cell {
 	return append(out, noise, noise)[:len(l)]
 }
 
+// unreal is a row of the same inputs, in cells that are not Real.
+func unreal(l ...api.Input) []api.Cell {
+	return turnReal(row(l...))
+}
+
+// turnReal is a row of the same inputs, spare room included, in cells that are Real where l's are not.
+func turnReal(l []api.Cell) []api.Cell {
+	whole := slices.Clone(l[:cap(l)])
+	for k := range whole {
+		whole[k].Real = !whole[k].Real
+	}
+	return whole[:len(l)]
+}
+
+// eachReal does f with rows of cells that are Real, and of cells that are not.
+func eachReal(f func(name string, row func(...api.Input) []api.Cell)) {
+	f("Real", row)
+	f("not Real", unreal)
+}
+
 // press is a row of buttons alone.
 func press(l ...int) []api.Cell {
 	var out []api.Input
@@ -167,16 +187,20 @@ func held(t *testing.T, c api.Config, rows [][]api.Cell, call func()) {
 	}
 }
 
-// next is Step, asked twice: it answers the same, and turns nothing of what it is given.
+// next is Step, asked twice: it answers the same, and turns nothing of what it is given. So it does of the same inputs, Real or not.
 func next(t *testing.T, c api.Config, s api.State, r []api.Cell) api.State {
 	t.Helper()
-	var first, again api.State
+	var first, again, other api.State
 	held(t, c, [][]api.Cell{r}, func() {
 		first = step.Step(c, s, r)
 		again = step.Step(c, s, r)
+		other = step.Step(c, s, turnReal(r))
 	})
 	if first != again {
 		t.Errorf("R4: not the same again: %s", diff(again, first))
+	}
+	if first != other {
+		t.Errorf("13.2: not the same of %v with each Real turned about: %s", r, diff(other, first))
 	}
 	return first
 }
@@ -223,36 +247,43 @@ func eachPush(f func(n, push int)) {
 	}
 }
 
-// TestStick: each way by itself, for each player, from standing and from moving.
+// TestStick: each way by itself, for each player, from standing and from moving, of cells that are Real and that are not.
 func TestStick(t *testing.T) {
-	for _, players := range []int{1, 3, 8} {
-		c := config(players)
-		for player := range players {
-			eachPush(func(n, push int) {
-				s := start(c)
-				inputs := make([]api.Input, players)
-				inputs[player].X = n
-				want := later(s)
-				want.Bodies[player].X += push
-				want.Bodies[player].VX = push
-				must(t, fmt.Sprint("stick X ", n), c, s, row(inputs...), want)
-
-				inputs[player] = api.Input{Y: n}
-				want = later(s)
-				want.Bodies[player].Y += push
-				want.Bodies[player].VY = push
-				must(t, fmt.Sprint("stick Y ", n), c, s, row(inputs...), want)
-
-				s.Bodies[player].VX, s.Bodies[player].VY = -10, 20
-				inputs[player] = api.Input{X: n, Y: -48, Buttons: 255}
-				want = later(s)
-				want.Bodies[player].VX, want.Bodies[player].VY = -10+push, 17
-				want.Bodies[player].X += -10 + push
-				want.Bodies[player].Y += 17
-				must(t, fmt.Sprint("stick X while it moves ", n), c, s, row(inputs...), want)
-			})
+	eachReal(func(name string, row func(...api.Input) []api.Cell) {
+		for _, players := range []int{1, 3, 8} {
+			for player := range players {
+				eachPush(func(n, push int) {
+					checkStick(t, fmt.Sprint(name, ", stick ", n), row, players, player, n, push)
+				})
+			}
 		}
-	}
+	})
+}
+
+func checkStick(t *testing.T, name string, row func(...api.Input) []api.Cell, players, player, n, push int) {
+	t.Helper()
+	c := config(players)
+	s := start(c)
+	inputs := make([]api.Input, players)
+	inputs[player].X = n
+	want := later(s)
+	want.Bodies[player].X += push
+	want.Bodies[player].VX = push
+	must(t, name+", as X", c, s, row(inputs...), want)
+
+	inputs[player] = api.Input{Y: n}
+	want = later(s)
+	want.Bodies[player].Y += push
+	want.Bodies[player].VY = push
+	must(t, name+", as Y", c, s, row(inputs...), want)
+
+	s.Bodies[player].VX, s.Bodies[player].VY = -10, 20
+	inputs[player] = api.Input{X: n, Y: -48, Buttons: 255}
+	want = later(s)
+	want.Bodies[player].VX, want.Bodies[player].VY = -10+push, 17
+	want.Bodies[player].X += -10 + push
+	want.Bodies[player].Y += 17
+	must(t, name+", as X while it moves", c, s, row(inputs...), want)
 }
 
 // TestSpeeds: a push is more, not instead; it goes no further than MaxSpeed; and the ends of the field turn about.
@@ -286,29 +317,35 @@ func turned(b api.Body) api.Body {
 	return b
 }
 
-// TestRows: nil, short, just long enough and longer; cells that are not Real are the default, whatever they hold.
+// TestRows: nil, short, just long enough and longer; a cell that is missing is the default, one that is there is its Input, Real or not.
 func TestRows(t *testing.T) {
 	came := func(x int) api.Cell { return api.Cell{Real: true, In: api.Input{X: x}} }
-	none := func(x int) api.Cell { return api.Cell{In: api.Input{Buttons: 255, X: x, Y: x}} }
+	told := func(x int) api.Cell { return api.Cell{In: api.Input{X: x}} }
 	for name, l := range map[string]struct {
 		row    []api.Cell
 		speeds [3]int
 	}{
-		"nil":                         {nil, [3]int{}},
-		"empty":                       {[]api.Cell{}, [3]int{}},
-		"empty, with spare room":      {row(), [3]int{}},
-		"short by two":                {row(api.Input{X: 16}), [3]int{1}},
-		"short by one":                {row(api.Input{X: 16}, api.Input{X: 32}), [3]int{1, 2}},
-		"just long enough":            {row(api.Input{X: 16}, api.Input{X: 32}, api.Input{X: -64}), [3]int{1, 2, -4}},
-		"longer":                      {row(api.Input{X: 16}, api.Input{X: 32}, api.Input{X: -64}, api.Input{X: 64}), [3]int{1, 2, -4}},
-		"much longer":                 {append([]api.Cell{came(16), came(32), came(-64)}, slices.Repeat([]api.Cell{came(64)}, 1000)...), [3]int{1, 2, -4}},
-		"defaults":                    {make([]api.Cell, 3), [3]int{}},
-		"real ones that are zero":     {row(api.Input{}, api.Input{}, api.Input{}), [3]int{}},
-		"none real":                   {[]api.Cell{none(16), none(64), none(-64)}, [3]int{}},
-		"the first one not real":      {[]api.Cell{none(16), came(64), came(-64)}, [3]int{0, 4, -4}},
-		"the second one not real":     {[]api.Cell{came(16), none(64), came(-64)}, [3]int{1, 0, -4}},
-		"the last one not real":       {[]api.Cell{came(16), came(64), none(-64)}, [3]int{1, 4, 0}},
-		"short, and the one not real": {[]api.Cell{none(64)}, [3]int{}},
+		"nil":                                 {nil, [3]int{}},
+		"empty":                               {[]api.Cell{}, [3]int{}},
+		"empty, with spare room":              {row(), [3]int{}},
+		"empty, with spare room not Real":     {unreal(), [3]int{}},
+		"short by two":                        {row(api.Input{X: 16}), [3]int{1}},
+		"short by two, not Real":              {unreal(api.Input{X: 16}), [3]int{1}},
+		"short by one":                        {row(api.Input{X: 16}, api.Input{X: 32}), [3]int{1, 2}},
+		"short by one, not Real":              {unreal(api.Input{X: 16}, api.Input{X: 32}), [3]int{1, 2}},
+		"just long enough":                    {row(api.Input{X: 16}, api.Input{X: 32}, api.Input{X: -64}), [3]int{1, 2, -4}},
+		"just long enough, not Real":          {unreal(api.Input{X: 16}, api.Input{X: 32}, api.Input{X: -64}), [3]int{1, 2, -4}},
+		"longer":                              {row(api.Input{X: 16}, api.Input{X: 32}, api.Input{X: -64}, api.Input{X: 64}), [3]int{1, 2, -4}},
+		"longer, not Real":                    {unreal(api.Input{X: 16}, api.Input{X: 32}, api.Input{X: -64}, api.Input{X: 64}), [3]int{1, 2, -4}},
+		"much longer":                         {append([]api.Cell{came(16), came(32), came(-64)}, slices.Repeat([]api.Cell{came(64)}, 1000)...), [3]int{1, 2, -4}},
+		"zero":                                {make([]api.Cell, 3), [3]int{}},
+		"zero, Real":                          {row(api.Input{}, api.Input{}, api.Input{}), [3]int{}},
+		"zero, then others, Real and not":     {[]api.Cell{{}, came(32), told(-64)}, [3]int{0, 2, -4}},
+		"the first one not Real":              {[]api.Cell{told(16), came(64), came(-64)}, [3]int{1, 4, -4}},
+		"the second one not Real":             {[]api.Cell{came(16), told(64), came(-64)}, [3]int{1, 4, -4}},
+		"the last one not Real":               {[]api.Cell{came(16), came(64), told(-64)}, [3]int{1, 4, -4}},
+		"short, the last one there not Real":  {[]api.Cell{came(16), told(64)}, [3]int{1, 4}},
+		"short, the first one there not Real": {[]api.Cell{told(16), came(64)}, [3]int{1, 4}},
 	} {
 		c := config(3)
 		s := start(c)
@@ -319,40 +356,118 @@ func TestRows(t *testing.T) {
 		}
 		must(t, name, c, s, l.row, want)
 	}
-	// Rules see the default, too.
-	c := config(2, ops(api.Get, 0, api.FieldButtons, api.Get, 1, api.FieldStickX, api.Get, 2, api.FieldStickY)...)
-	s := start(c)
-	s.Bodies[0].Mem, s.Bodies[1].Mem = [4]int{9, 9, 9, 9}, [4]int{9, 9, 9, 9}
-	want := later(s)
-	want.Bodies[0].Mem, want.Bodies[1].Mem = [4]int{0, 0, 0, 9}, [4]int{0, 0, 0, 9}
-	must(t, "not real, by rules", c, s, []api.Cell{none(3), none(4)}, want)
-	must(t, "missing, by rules", c, s, nil, want)
 }
 
-// TestInputBounds: what rules see of an Input is within its bounds.
-func TestInputBounds(t *testing.T) {
-	c := config(2, ops(api.Get, 0, api.FieldButtons, api.Get, 1, api.FieldStickX, api.Get, 2, api.FieldStickY)...)
-	check := func(in api.Input, buttons, x, y int) {
-		t.Helper()
+// TestRowsByRules: rules are told the default of a cell that is missing, and zero of one that is zero; of any other its Input, Real or not.
+func TestRowsByRules(t *testing.T) {
+	in := api.Input{Buttons: 3, X: 5, Y: -7}
+	told, none := [4]int{3, 5, -7, 9}, [4]int{0, 0, 0, 9}
+	for name, l := range map[string]struct {
+		row  []api.Cell
+		mems [2][4]int
+	}{
+		"nil":                    {nil, [2][4]int{none, none}},
+		"empty":                  {unreal(), [2][4]int{none, none}},
+		"short":                  {row(in), [2][4]int{told, none}},
+		"short, not Real":        {unreal(in), [2][4]int{told, none}},
+		"zero":                   {make([]api.Cell, 2), [2][4]int{none, none}},
+		"zero, Real":             {row(api.Input{}, api.Input{}), [2][4]int{none, none}},
+		"both Real":              {row(in, in), [2][4]int{told, told}},
+		"neither Real":           {unreal(in, in), [2][4]int{told, told}},
+		"the first one not Real": {[]api.Cell{{In: in}, {Real: true, In: in}}, [2][4]int{told, told}},
+		"the last one not Real":  {[]api.Cell{{Real: true, In: in}, {In: in}}, [2][4]int{told, told}},
+		"zero, then not Real":    {[]api.Cell{{}, {In: in}}, [2][4]int{none, told}},
+	} {
+		c := config(2, telling()...)
 		s := start(c)
-		s.Bodies[1].Mem[3] = 5
-		got := next(t, c, s, row(api.Input{}, in))
-		if got.Bodies[1].Mem != [4]int{buttons, x, y, 5} || got.Bodies[0].Mem != [4]int{} {
-			t.Errorf("13.2: rules see %v of %+v, must be %d %d %d", got.Bodies[1].Mem, in, buttons, x, y)
+		s.Bodies[0].Mem, s.Bodies[1].Mem = [4]int{9, 9, 9, 9}, [4]int{9, 9, 9, 9}
+		want := later(s)
+		want.Bodies[0].Mem, want.Bodies[1].Mem = l.mems[0], l.mems[1]
+		must(t, name, c, s, l.row, want)
+	}
+}
+
+// telling is rules that tell their player's Input in registers 0 to 2.
+func telling() []api.Op {
+	return ops(api.Get, 0, api.FieldButtons, api.Get, 1, api.FieldStickX, api.Get, 2, api.FieldStickY)
+}
+
+// TestInputBounds: what rules see of an Input is within its bounds, be its cell Real or not.
+func TestInputBounds(t *testing.T) {
+	eachReal(func(name string, row func(...api.Input) []api.Cell) {
+		check := func(in api.Input, buttons, x, y int) {
+			t.Helper()
+			checkTold(t, name, row, in, [4]int{buttons, x, y, 5})
+		}
+		for n, want := range map[int]int{least: 0, -1 << 32: 0, -256: 0, -2: 0, -1: 0, 0: 0, 1: 1, 128: 128, 254: 254, 255: 255, 256: 255, 257: 255, 300: 255, 511: 255, 1 << 32: 255, greatest: 255} {
+			check(api.Input{Buttons: n}, want, 0, 0)
+			check(api.Input{Buttons: n, X: 7, Y: -7}, want, 7, -7)
+		}
+		for n, want := range map[int]int{least: -64, -1 << 32: -64, -128: -64, -66: -64, -65: -64, -64: -64, -63: -63, -1: -1, 0: 0, 1: 1, 63: 63, 64: 64, 65: 64, 66: 64, 128: 64, 1 << 32: 64, greatest: 64} {
+			check(api.Input{X: n}, 0, want, 0)
+			check(api.Input{Y: n}, 0, 0, want)
+			check(api.Input{Buttons: 9, X: n, Y: n}, 9, want, want)
+		}
+		for n := range 256 {
+			check(api.Input{Buttons: n}, n, 0, 0)
+		}
+	})
+}
+
+// checkTold holds what the second of two players' rules are told of an Input against mem.
+func checkTold(t *testing.T, name string, row func(...api.Input) []api.Cell, in api.Input, mem [4]int) {
+	t.Helper()
+	c := config(2, telling()...)
+	s := start(c)
+	s.Bodies[1].Mem[3] = mem[3]
+	got := next(t, c, s, row(api.Input{}, in))
+	if got.Bodies[1].Mem != mem || got.Bodies[0].Mem != [4]int{} {
+		t.Errorf("13.2: %s: rules see %v of %+v, must be %v", name, got.Bodies[1].Mem, in, mem)
+	}
+}
+
+// TestNotReal: one player's stick of 16 moves it, and each number of an Input is the same in a cell that is not Real as in one that is.
+func TestNotReal(t *testing.T) {
+	c := api.Config{Players: 1, Period: 1, Frames: 5, Rate: 3, Depth: 50, Tokens: []int{0}}
+	for _, came := range []bool{false, true} {
+		got := step.Step(c, step.First(c), []api.Cell{{Real: came, In: api.Input{X: 16}}})
+		if b := got.Bodies[0]; b.X != 2049 || b.VX != 1 || b.Y != 2048 || b.VY != 0 {
+			t.Errorf("13.2: Real %v, a stick of 16 to the right: %+v", came, b)
 		}
 	}
-	for n, want := range map[int]int{least: 0, -1 << 32: 0, -256: 0, -2: 0, -1: 0, 0: 0, 1: 1, 128: 128, 254: 254, 255: 255, 256: 255, 257: 255, 511: 255, 1 << 32: 255, greatest: 255} {
-		check(api.Input{Buttons: n}, want, 0, 0)
-		check(api.Input{Buttons: n, X: 7, Y: -7}, want, 7, -7)
+	// How many states the inputs make tells that they are not all one: 7 pushes each way, 5 of the buttons and 11 of the sticks within
+	// their bounds; rules that fault take the push back.
+	for _, l := range []struct {
+		rules  []api.Op
+		states int
+	}{{nil, 7 * 7}, {telling(), 5 * 11 * 11}, {firing(), 3*7*7 + 1}, {busyGame(), 32}, {ops(api.Div, 0, 0), 1}} {
+		if n := statesOf(t, config(2, l.rules...)); n != l.states {
+			t.Errorf("13.2: rules %v: inputs make %d states, must be %d", l.rules, n, l.states)
+		}
 	}
-	for n, want := range map[int]int{least: -64, -1 << 32: -64, -128: -64, -66: -64, -65: -64, -64: -64, -63: -63, -1: -1, 0: 0, 1: 1, 63: 63, 64: 64, 65: 64, 66: 64, 128: 64, 1 << 32: 64, greatest: 64} {
-		check(api.Input{X: n}, 0, want, 0)
-		check(api.Input{Y: n}, 0, 0, want)
-		check(api.Input{Buttons: 9, X: n, Y: n}, 9, want, want)
+}
+
+// statesOf counts the states that inputs make, within their bounds, at them, next to them and beyond, the same of cells Real or not.
+func statesOf(t *testing.T, c api.Config) int {
+	t.Helper()
+	sticks := []int{least, -65, -64, -63, -17, -16, -15, 0, 15, 16, 17, 63, 64, 65, greatest}
+	s := start(c)
+	seen := map[api.State]int{}
+	for _, n := range []int{least, -1, 0, 1, 7, 254, 255, 256, 300, greatest} {
+		for _, x := range sticks {
+			for _, y := range sticks {
+				in := api.Input{Buttons: n, X: x, Y: y}
+				want := step.Step(c, s, row(in, in))
+				for _, r := range [][]api.Cell{unreal(in, in), {{In: in}, {Real: true, In: in}}, {{Real: true, In: in}, {In: in}}} {
+					if got := step.Step(c, s, r); got != want {
+						t.Fatalf("13.2: rules %v, row %v: %s", c.Rules, r, diff(got, want))
+					}
+				}
+				seen[want]++
+			}
+		}
 	}
-	for n := range 256 {
-		check(api.Input{Buttons: n}, n, 0, 0)
-	}
+	return len(seen)
 }
 
 // TestOrder: of a Player: the push, then the rules, then the move.
